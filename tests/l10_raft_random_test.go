@@ -352,21 +352,15 @@ func (p *pond) deliver() {
 	p.settle(int(m.To-1), next, sent)
 }
 
-// compact leaves out by hand what a node has agreed on.
+// compact leaves out some of what a node has agreed on.
 func (p *pond) compact(at int) {
-	n := copyNode(p.nodes[at])
+	n := p.nodes[at]
 	if n.Commit == n.Base {
 		return
 	}
-	cut := n.Commit - n.Base
-	upTo := n
-	upTo.Log = n.Log[:cut]
-	n.BaseConf, n.BaseTerm, n.BaseState = slowConfNow(upTo), n.Log[cut-1].Term, fmt.Sprint("state ", n.Commit)
-	n.Base, n.Log = n.Commit, n.Log[cut:]
-	if !impl.NodeOk(n) {
-		p.t.Fatalf("not right: %+v", n)
-	}
-	p.nodes[at] = n
+	upto := pick(p.r, n.Commit, n.Base+1+p.r.Int64N(n.Commit-n.Base))
+	checkCompact(p.t, "a node that talks", n, upto, fmt.Sprint("state ", upto))
+	p.nodes[at], _ = impl.Compact(n, upto, fmt.Sprint("state ", upto))
 }
 
 func (p *pond) propose(at int) {
@@ -398,7 +392,7 @@ func (p *pond) step() {
 	case 3, 4, 5:
 		p.propose(at)
 	case 6:
-		if p.r.IntN(4) == 0 {
+		if p.r.IntN(3) == 0 {
 			p.compact(at)
 		}
 	default:
@@ -458,16 +452,6 @@ func roomyMsg(m impl.Msg) impl.Msg {
 	return m
 }
 
-// A part is one list of an answer or an argument.
-type part struct {
-	watch
-	spoil func()
-}
-
-func partOf[T comparable](what string, list []T, fill T) part {
-	return part{watchOver(what, list), func() { scribble(list, fill) }}
-}
-
 func partsOfNode(what string, n impl.Node) []part {
 	return []part{
 		partOf(what+"'s Voters", n.BaseConf.Voters, -9), partOf(what+"'s Learners", n.BaseConf.Learners, -8), partOf(what+"'s Log", n.Log, impl.Entry{Term: -7}),
@@ -501,31 +485,6 @@ func (a raftAnswer) clone() raftAnswer {
 
 func (a raftAnswer) same(b raftAnswer) bool {
 	return sameNode(a.node, b.node) && sameMsgs(a.sent, b.sent) && slices.Equal(a.entries, b.entries) && sameConf(a.conf, b.conf)
-}
-
-// checkOwn: a call changes no argument, and what it answers shares nothing with an argument, nor one list of it with another.
-func checkOwn(t *testing.T, when string, argument []part, call func() raftAnswer) {
-	t.Helper()
-	var watches []watch
-	for _, p := range argument {
-		watches = append(watches, p.watch)
-	}
-	answer := call()
-	checkWatches(t, when, watches)
-	before := answer.clone()
-	for i, p := range answer.parts() {
-		others := answer.parts()
-		p.spoil()
-		for j, other := range others {
-			if i != j && !other.same() {
-				t.Errorf("%s: %s shares memory with %s", when, p.what, other.what)
-			}
-		}
-	}
-	checkWatches(t, when+", scribbled on", watches)
-	if again := call(); !again.same(before) {
-		t.Errorf("%s: the same argument, another answer", when)
-	}
 }
 
 func TestRaftAnswersAreTheirOwn(t *testing.T) {
